@@ -49,3 +49,11 @@ func spoil(list []int) {
 func inSet(set, k int) bool {
 	return set>>k&1 == 1
 }
+
+func sumOf(list []int) int {
+	sum := 0
+	for _, n := range list {
+		sum += n
+	}
+	return sum
+}

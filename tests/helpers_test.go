@@ -57,3 +57,11 @@ func sumOf(list []int) int {
 	}
 	return sum
 }
+
+// oneIf returns 1 for what is so, and 0 for what is not.
+func oneIf(so bool) int {
+	if so {
+		return 1
+	}
+	return 0
+}

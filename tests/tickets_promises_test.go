@@ -233,7 +233,7 @@ func TestP59DishesCanBeCancelledBehind(t *testing.T) {
 			t.Error("only ordered", ordered)
 		}
 	}
-	eachValid(3, checkRest)
+	eachValid(4, checkRest)
 	forSeeds(t, 1000, func(t *testing.T, r *rand.Rand) {
 		ticket := randomTicket(r, impl.MaxOrders)
 		checkRest(ticket)

@@ -29,7 +29,7 @@ func refusesBadQuarrels(t *testing.T, refused func(guests int, quarrels []int) b
 	}
 }
 
-// forMenus runs a check with menus that are written down, with all for few guests, and with random ones for as many as there may be.
+// forMenus runs a check with menus that are written down, with all of few dishes for few guests, and with random ones for up to as many as there may be.
 func forMenus(t *testing.T, check func(t *testing.T, guests int, menu []int)) {
 	t.Helper()
 	for _, x := range menus {
